@@ -37,15 +37,12 @@ func roomyQueue(q api.Queue) api.Queue {
 	return q
 }
 
-// oneMemory has all inboxes in one memory, each with the next one as its spare room, and the keys of tickets of one number in one list.
+// oneMemory has all inboxes in one memory, each with the next one as its spare room, and the keys of one ticket in one list.
 func oneMemory(q api.Queue) api.Queue {
 	all := slices.Concat(clone(q).Boxes...)
-	keys := map[int][]string{}
 	for i, t := range all {
-		if keys[t.Number] == nil {
-			keys[t.Number] = t.Command.Keys
-		}
-		all[i].Command.Keys = keys[t.Number]
+		first := slices.IndexFunc(all, func(x api.Ticket) bool { return sameTicket(x, t) })
+		all[i].Command.Keys = all[first].Command.Keys
 	}
 	q.Boxes = slices.Clone(q.Boxes)
 	from := 0

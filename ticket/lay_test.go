@@ -1,9 +1,9 @@
 package ticket_test
 
 import (
+	"cmp"
 	"fmt"
 	"hash/fnv"
-	"maps"
 	"math/rand"
 	"reflect"
 	"slices"
@@ -100,6 +100,11 @@ func getAt(n int, shards ...int) api.Ticket {
 	return get(keys...)
 }
 
+// shardsOf are those of a set: shard i is in it, if bit i is.
+func shardsOf(set int) []int {
+	return slices.DeleteFunc([]int{0, 1, 2, 3}, func(i int) bool { return set>>i&1 == 0 })
+}
+
 // wantMayBe is what the document says of a ticket.
 func wantMayBe(t api.Ticket) bool {
 	c := t.Command
@@ -164,28 +169,35 @@ func (m *model) queue() api.Queue {
 	return q
 }
 
-// modelOf has of each number one of the tickets that stand somewhere.
+// modelOf has each of the tickets that stand somewhere once; those of one number stand as they come.
 func modelOf(q api.Queue) *model {
-	by := map[int]api.Ticket{}
-	for _, box := range q.Boxes {
-		for _, t := range box {
-			by[t.Number] = t
+	m := &model{n: len(q.Boxes), next: q.Next}
+	for _, t := range slices.Concat(q.Boxes...) {
+		if !slices.ContainsFunc(m.line, func(x api.Ticket) bool { return sameTicket(x, t) }) {
+			m.line = append(m.line, t)
 		}
 	}
-	m := &model{n: len(q.Boxes), next: q.Next}
-	for _, number := range slices.Sorted(maps.Keys(by)) {
-		m.line = append(m.line, by[number])
-	}
+	slices.SortStableFunc(m.line, func(a, b api.Ticket) int { return cmp.Compare(a.Number, b.Number) })
 	return m
 }
 
-// wantCheck: inboxes may be, if they are what comes of their own tickets, each once, put in one line by their numbers.
+// rises tells whether numbers of an inbox do.
+func rises(box []api.Ticket) bool {
+	for k := 1; k < len(box); k++ {
+		if box[k].Number <= box[k-1].Number {
+			return false
+		}
+	}
+	return true
+}
+
+// wantCheck: inboxes may be, if their numbers rise, and they are what comes of their own tickets, each once, put in one line by their numbers.
 func wantCheck(q api.Queue) api.Errno {
 	if len(q.Boxes) < 1 || len(q.Boxes) > maxShards || q.Next < 0 || q.Next > endNumber {
 		return api.ErrBad
 	}
 	for _, box := range q.Boxes {
-		if len(box) > maxBox {
+		if len(box) > maxBox || !rises(box) {
 			return api.ErrBad
 		}
 		for _, t := range box {
@@ -406,7 +418,32 @@ func randomTicket(r *rand.Rand) api.Ticket {
 	return t
 }
 
-// randomModel has tickets in the line, whose numbers have gaps.
+// meet tells whether two tickets that may be need one shard.
+func meet(a, b api.Ticket, n int) bool {
+	for shard := range n {
+		if hits(a, shard, n) && hits(b, shard, n) {
+			return true
+		}
+	}
+	return false
+}
+
+// oneNumber gives the last ticket of the line the number of the one ahead of it, if it meets none of that number.
+func (m *model) oneNumber() {
+	last := len(m.line) - 1
+	if last < 1 {
+		return
+	}
+	number := m.line[last-1].Number
+	for _, t := range m.line[:last] {
+		if t.Number == number && meet(t, m.line[last], m.n) {
+			return
+		}
+	}
+	m.line[last].Number = number
+}
+
+// randomModel has tickets in the line, whose numbers have gaps; some that need different shards have one number.
 func randomModel(r *rand.Rand, many int) *model {
 	m := &model{n: 1 + r.Intn(maxShards), next: r.Intn(3)}
 	if r.Intn(4) == 0 {
@@ -415,6 +452,9 @@ func randomModel(r *rand.Rand, many int) *model {
 	for range many {
 		m.put(randomTicket(r))
 		m.next += r.Intn(3) / 2
+		if r.Intn(2) == 0 {
+			m.oneNumber()
+		}
 	}
 	return m
 }

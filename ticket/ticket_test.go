@@ -235,7 +235,7 @@ func TestCheckOfWhereATicketStands(t *testing.T) {
 	for n := 1; n <= maxShards; n++ {
 		l := []api.Ticket{flush(), clock(1), quota(1, 1)}
 		for set := 1; set < 1<<n; set++ {
-			l = append(l, getAt(n, slices.DeleteFunc([]int{0, 1, 2, 3}, func(i int) bool { return set>>i&1 == 0 })...))
+			l = append(l, getAt(n, shardsOf(set)...))
 		}
 		for _, x := range l {
 			for set := 1; set < 1<<n; set++ {
@@ -261,20 +261,26 @@ func TestCheckOfWhereATicketStands(t *testing.T) {
 	}
 }
 
-// P12.1: a ticket that is not the same in all inboxes may not be, whichever thing of it differs; and no two tickets have one number.
+// P12.1: a ticket that is not the same in all inboxes may not be, whichever thing of it differs; nor one in whose place another one of its number stands.
 func TestCheckOfTicketsThatDiffer(t *testing.T) {
 	cas := command(api.Command{Kind: api.CmdCas, Keys: []string{"b"}, Value: "v", Flags: 1, For: 1, Unique: 1})
 	pairs := [][2]api.Ticket{
 		{get("a", "b"), get("b", "a")}, {get("a", "b"), get("a", "b", "c")}, {get("a", "b"), get("a", "d")}, {get("a", "b"), del("a", "b")}, {get("a", "b"), flush()},
-		{get("a", "b"), get("b")}, {get("a"), get("a", "b")}, {get("a"), get("b")}, {set("a", "v"), set("b", "v")}, {get("a"), cas}, {get("a", "b"), clock(1)}, {clock(1), get("b")},
+		{get("a", "b"), get("b")}, {get("a"), get("a", "b")}, {get("a"), get("a")}, {get("b"), get("b")}, {get("b"), get("a")}, {set("b", "v"), set("a", "v")}, {cas, get("a")}, {get("a", "b"), clock(1)}, {clock(1), get("b")},
 		{flush(), command(api.Command{Kind: api.CmdFlush, Tenant: 1})}, {flush(), clock(0)}, {flush(), quota(0, 0)},
 		{clock(1), clock(2)}, {clock(0), quota(0, 0)}, {clock(1), quota(0, 1)}, {quota(1, 1), quota(1, 2)}, {quota(1, 1), quota(2, 1)},
 	}
 	for _, p := range pairs {
 		for _, x := range [][2]api.Ticket{p, {p[1], p[0]}} {
-			checkRefused(t, api.Queue{Next: 1, Boxes: [][]api.Ticket{{x[0]}, {x[1]}}})
-			behind := api.Queue{Next: 9, Boxes: [][]api.Ticket{row(2, get("a"), x[0]), row(3, x[1], clock(1))}}
-			behind.Boxes[0] = append(behind.Boxes[0], numbered(clock(1), 4))
+			first := api.Queue{Next: 1, Boxes: [][]api.Ticket{{x[0]}, {x[1]}}}
+			behind := api.Queue{Next: 9, Boxes: [][]api.Ticket{row(2, get("a"), x[0], clock(1)), row(3, x[1], clock(1))}}
+			if !meet(x[0], x[1], 2) && hits(x[0], 0, 2) {
+				// Each stands where it is to: they are two tickets, which have one number.
+				checkCheck(t, first, api.OK)
+				checkCheck(t, behind, api.OK)
+				continue
+			}
+			checkRefused(t, first)
 			checkRefused(t, behind)
 		}
 	}
@@ -287,6 +293,58 @@ func TestCheckOfTicketsThatDiffer(t *testing.T) {
 	}
 	// In another order: numbers rise in one of them alone.
 	checkRefused(t, api.Queue{Next: 9, Boxes: [][]api.Ticket{row(0, flush(), clock(1)), {numbered(clock(1), 1), numbered(flush(), 0)}}})
+}
+
+// P12.1: two tickets may have one number, if no shard needs both: of all pairs of sets of shards just those that have none in common.
+func TestCheckOfOneNumber(t *testing.T) {
+	for n := 1; n <= maxShards; n++ {
+		for a := 1; a < 1<<n; a++ {
+			for b := 1; b < 1<<n; b++ {
+				x, y := numbered(getAt(n, shardsOf(a)...), 4), numbered(getAt(n, shardsOf(b)...), 4)
+				y.Command.Kind = api.CmdDelete
+				q := api.Queue{Next: 9, Boxes: make([][]api.Ticket, n)}
+				for shard := range n {
+					if a>>shard&1 == 1 {
+						q.Boxes[shard] = append(q.Boxes[shard], withOwnKeys(x))
+					}
+					if b>>shard&1 == 1 {
+						q.Boxes[shard] = append(q.Boxes[shard], withOwnKeys(y))
+					}
+				}
+				if a&b != 0 {
+					checkRefused(t, q)
+					// Where both were the second one goes: then it lacks one of its shards, unless it is nowhere any more.
+					for shard := range n {
+						q.Boxes[shard] = q.Boxes[shard][:min(len(q.Boxes[shard]), 1)]
+					}
+					want := api.OK
+					if b&^a != 0 {
+						want = api.ErrBad
+					}
+					checkCheck(t, q, want)
+					continue
+				}
+				checkCheck(t, q, api.OK)
+				checkReady(t, q, shardsOf(a|b), api.OK)
+			}
+		}
+	}
+}
+
+// P12.1: as many tickets of one number as there are shards, again and again.
+func TestCheckOfManyOfOneNumber(t *testing.T) {
+	for n := 1; n <= maxShards; n++ {
+		for _, next := range []int{maxBox, endNumber} {
+			q := api.Queue{Next: next, Boxes: make([][]api.Ticket, n)}
+			for shard := range n {
+				q.Boxes[shard] = row(next-maxBox, slices.Repeat([]api.Ticket{getAt(n, shard)}, maxBox)...)
+			}
+			checkCheck(t, q, api.OK)
+			checkReady(t, q, shardsOf(1<<n-1), api.OK)
+			q.Boxes[n-1][maxBox-1].Number++
+			checkRefused(t, q)
+		}
+	}
 }
 
 // P12.1: a list of keys that is empty is the same as none.
@@ -311,7 +369,7 @@ func spoilt(r *rand.Rand, q api.Queue) api.Queue {
 	}
 	k := r.Intn(len(q.Boxes[i]))
 	x := &q.Boxes[i][k]
-	switch r.Intn(12) {
+	switch r.Intn(13) {
 	case 0:
 		q.Boxes[i] = slices.Delete(q.Boxes[i], k, k+1)
 	case 1:
@@ -342,6 +400,15 @@ func spoilt(r *rand.Rand, q api.Queue) api.Queue {
 		number := x.Number
 		for i := range q.Boxes {
 			q.Boxes[i] = slices.DeleteFunc(q.Boxes[i], func(t api.Ticket) bool { return t.Number == number })
+		}
+	case 12:
+		was, by := *x, r.Intn(5)-2
+		for i := range q.Boxes {
+			for k := range q.Boxes[i] {
+				if sameTicket(q.Boxes[i][k], was) {
+					q.Boxes[i][k].Number += by
+				}
+			}
 		}
 	}
 	return q

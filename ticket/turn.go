@@ -66,7 +66,7 @@ func isReady(q api.Queue, shard int) bool {
 		return false
 	}
 	first := q.Boxes[shard][0]
-	holders := holdersAt(q, [api.MaxShards]int{}, first.Number)
+	holders := holdersAt(q, [api.MaxShards]int{}, first)
 	return slices.Equal(holders, needs(first, len(q.Boxes)))
 }
 

@@ -107,7 +107,7 @@ func TestPutInFullInboxes(t *testing.T) {
 				t.Fatal(n, full, len(q.Boxes[full]))
 			}
 			for set := 1; set < 1<<n; set++ {
-				x := getAt(n, slices.DeleteFunc([]int{0, 1, 2, 3}, func(i int) bool { return set>>i&1 == 0 })...)
+				x := getAt(n, shardsOf(set)...)
 				again := *m
 				left := bothPut(t, q, &again, x)
 				if (left.Next == q.Next) != (set>>full&1 == 1) {
@@ -196,6 +196,28 @@ func TestReady(t *testing.T) {
 	} {
 		checkReady(t, putAll(t, c.n, c.l...), c.want, api.OK)
 	}
+}
+
+// P12.2, P12.3: written out: tickets of different shards that have one number are two tickets: one is taken without the other.
+func TestTurnsOfOneNumber(t *testing.T) {
+	x, y := get("a"), command(api.Command{Kind: api.CmdGet, Tenant: 1, Keys: []string{"a"}})
+	q := api.Queue{Next: 1, Boxes: [][]api.Ticket{{x}, {y}}}
+	checkReady(t, q, []int{0, 1}, api.OK)
+	checkTake(t, q, 0, api.Queue{Next: 1, Boxes: [][]api.Ticket{nil, {y}}}, x, api.OK)
+	checkTake(t, q, 1, api.Queue{Next: 1, Boxes: [][]api.Ticket{{x}, nil}}, y, api.OK)
+	q = checkPut(t, q, x, api.Queue{Next: 2, Boxes: [][]api.Ticket{{x, numbered(x, 1)}, {y}}}, 1, api.OK)
+	q = checkPut(t, q, clock(3), api.Queue{Next: 3, Boxes: [][]api.Ticket{{x, numbered(x, 1), numbered(clock(3), 2)}, {y, numbered(clock(3), 2)}}}, 2, api.OK)
+	checkReady(t, q, []int{0, 1}, api.OK)
+
+	// Two of two shards each, and then one that waits for both.
+	near, far, all := numbered(getAt(4, 0, 2), 5), numbered(getAt(4, 1, 3), 5), numbered(flush(), 6)
+	q = api.Queue{Next: 7, Boxes: [][]api.Ticket{{near, all}, {far, all}, {near, all}, {far, all}}}
+	checkReady(t, q, []int{0, 1, 2, 3}, api.OK)
+	q = checkTake(t, q, 3, api.Queue{Next: 7, Boxes: [][]api.Ticket{{near, all}, {all}, {near, all}, {all}}}, far, api.OK)
+	checkReady(t, q, []int{0, 2}, api.OK)
+	checkTake(t, q, 1, api.Queue{}, api.Ticket{}, api.ErrNone)
+	q = checkTake(t, q, 2, api.Queue{Next: 7, Boxes: [][]api.Ticket{{all}, {all}, {all}, {all}}}, near, api.OK)
+	checkReady(t, q, []int{0, 1, 2, 3}, api.OK)
 }
 
 // P12.2, P12.3: long runs of puts and takes, held against one line of tickets.
